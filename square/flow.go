@@ -2,6 +2,7 @@ package square
 
 import (
 	"encaustic/api"
+	"encaustic/matrix"
 )
 
 // Through returns the flow from s to t by Kirchhoff's laws.
@@ -55,7 +56,7 @@ func potentials(n int, wires []api.Wire, s, t int) []int {
 			m[row][v] = 0
 		}
 		m[s][v] = 1
-		at[v] = determinant(without(m, t), wholes())
+		at[v] = matrix.Determinant(without(m, t))
 	}
 	return at
 }

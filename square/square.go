@@ -3,7 +3,10 @@
 package square
 
 import (
+	"slices"
+
 	"encaustic/api"
+	"encaustic/matrix"
 )
 
 // Trees returns the number of spanning trees of a network.
@@ -54,14 +57,15 @@ func areTwo(n, a, b int) bool {
 
 // trees may leave out any vertex: the determinant is the same for all of them (Kirchhoff).
 func trees(n int, wires []api.Wire) int {
-	return determinant(without(laplacian(n, wires), 0), wholes())
+	return matrix.Determinant(without(laplacian(n, wires), 0))
 }
 
 // merged leaves out both s and t: that is the Laplacian of the merged network without the vertex that they have become.
 func merged(n int, wires []api.Wire, s, t int) int {
-	return determinant(without(laplacian(n, wires), s, t), wholes())
+	return matrix.Determinant(without(laplacian(n, wires), s, t))
 }
 
+// laplacian is fit for matrix.Determinant: with the few wires of a network none of its numbers comes near an overflow.
 func laplacian(n int, wires []api.Wire) [][]int {
 	m := make([][]int, n)
 	for i := range m {
@@ -74,4 +78,22 @@ func laplacian(n int, wires []api.Wire) [][]int {
 		m[w.B][w.A]--
 	}
 	return m
+}
+
+// without returns a copy of a square matrix without some of its rows and the columns of the same numbers.
+func without(m [][]int, out ...int) [][]int {
+	var rest [][]int
+	for i, row := range m {
+		if slices.Contains(out, i) {
+			continue
+		}
+		var kept []int
+		for j, number := range row {
+			if !slices.Contains(out, j) {
+				kept = append(kept, number)
+			}
+		}
+		rest = append(rest, kept)
+	}
+	return rest
 }

@@ -1,8 +1,5 @@
-package square
-
-import (
-	"slices"
-)
+// Package matrix computes with matrices of whole numbers, for the layers that count by determinants.
+package matrix
 
 // arithmetic is how a determinant's numbers are computed with.
 type arithmetic struct {
@@ -18,27 +15,11 @@ func wholes() arithmetic {
 	}
 }
 
-// without returns a copy of a square matrix without some of its rows and the columns of the same numbers.
-func without(m [][]int, out ...int) [][]int {
-	var rest [][]int
-	for i, row := range m {
-		if slices.Contains(out, i) {
-			continue
-		}
-		var kept []int
-		for j, number := range row {
-			if !slices.Contains(out, j) {
-				kept = append(kept, number)
-			}
-		}
-		rest = append(rest, kept)
-	}
-	return rest
-}
-
-// determinant uses m up. It eliminates as Bareiss does: all numbers on the way are determinants of parts of m,
-// so no division leaves a rest, and with the few wires of a network none of them comes near an overflow.
-func determinant(m [][]int, with arithmetic) int {
+// Determinant returns the determinant of a square matrix, 1 if it is empty, and uses m up. It eliminates as Bareiss
+// does: all numbers on the way are determinants of parts of m, so no division leaves a rest. The caller sees to it that
+// no product of two of them, of parts that are smaller than m, overflows.
+func Determinant(m [][]int) int {
+	with := wholes()
 	last, exchanged := 1, false
 	for k := range m {
 		row := pivotRow(m, k)
